@@ -4,6 +4,8 @@ import (
 	"slices"
 	"strings"
 	"testing"
+
+	"isochron/draw"
 )
 
 // checkTree looks whether any item is ahead of the one above it.
@@ -45,18 +47,22 @@ func TestTreeOfTexts(t *testing.T) {
 
 // Items that are the same in the order are all kept.
 func TestTreeOfSameOnes(t *testing.T) {
-	c := &chance{seed: 5}
+	drawn := 0
+	below := func(k int) int {
+		drawn++
+		return int(draw.Below(5, 0, drawn, int64(k)))
+	}
 	for range 200 {
 		x := &tree[int]{ahead: func(a, b int) bool { return a/10 < b/10 }}
 		var l []int
-		for range 1 + c.below(40) {
-			l = append(l, c.below(60))
+		for range 1 + below(40) {
+			l = append(l, below(60))
 			x.add(l[len(l)-1])
 		}
 		var out []int
 		for x.size() > 0 {
 			checkTree(t, x)
-			out = append(out, x.cut(c.below(x.size())))
+			out = append(out, x.cut(below(x.size())))
 		}
 		slices.Sort(l)
 		slices.Sort(out)

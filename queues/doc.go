@@ -1,0 +1,2 @@
+// Package queues holds the tests that the queues of messages have in common; it has no code of its own.
+package queues
