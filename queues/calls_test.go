@@ -8,9 +8,10 @@ import (
 	"isochron/api"
 	"isochron/calendar"
 	"isochron/heap"
+	"isochron/ladder"
 )
 
-// P6.1, P7.1: New is empty; of an empty queue nothing is answered, and it can be used on.
+// P6.1, P7.1, P8.1: New is empty; of an empty queue nothing is answered, and it can be used on.
 func TestNew(t *testing.T) {
 	each(t, func(t *testing.T, k kind) {
 		q := k.empty(t)
@@ -47,7 +48,7 @@ func TestExample(t *testing.T) {
 	})
 }
 
-// P6.1, P7.1: the first is by Time, then From, then Seq, then Uid, and by nothing else.
+// P6.1, P7.1, P8.1: the first is by Time, then From, then Seq, then Uid, and by nothing else.
 func TestTheFirstOfTwo(t *testing.T) {
 	each(t, func(t *testing.T, k kind) {
 		for _, c := range []struct {
@@ -86,7 +87,7 @@ func TestTheFirstOfTwo(t *testing.T) {
 	})
 }
 
-// P6.1, P6.3, P7.1, P7.3: any message may be; at all edges what is popped comes in the order, in whichever it was pushed.
+// P6.1, P6.3, P7.1, P7.3, P8.1, P8.3: any message may be; at all edges what is popped comes in the order, in whichever it was pushed.
 func TestAllEdges(t *testing.T) {
 	each(t, func(t *testing.T, k kind) {
 		var l []api.Message
@@ -137,7 +138,56 @@ func TestAroundDays(t *testing.T) {
 	})
 }
 
-// P6.1, P7.1: a message of a sending that is there is refused whatever else differs, and none of another sending is.
+// P8.1, P8.3: as many messages as a bottom holds, one fewer, one more, and several bottoms of them, at many Times and all at one; of the bottom and of what lies above it one is cut, some are popped, and others come ahead of the rest, between and behind it.
+func TestAroundBottoms(t *testing.T) {
+	each(t, func(t *testing.T, k kind) {
+		for _, most := range bottoms()[:5] {
+			for _, n := range []int{most - 1, most, most + 1, 2 * most, 2*most + 1, 3 * most} {
+				for _, step := range []int64{0, 2} {
+					var l []api.Message
+					for i := range n {
+						l = append(l, message(step*int64(i), 0, i, i))
+					}
+					falling := slices.Clone(l)
+					slices.Reverse(falling)
+					for _, pushed := range [][]api.Message{l, falling, shuffled(l, 10007)} {
+						playAround(t, queueOf(t, k, pushed...), l)
+					}
+				}
+			}
+		}
+	})
+}
+
+// playAround cuts, pops and pushes in a queue that has l, which rises.
+func playAround(t *testing.T, q queue, l []api.Message) {
+	t.Helper()
+	p, n := &plain{l: slices.Clone(l)}, len(l)
+	check(t, q, l...)
+	for _, i := range []int{0, n / 4, n / 2, n - 2, n - 1} {
+		if got, want := answered(q.Cut(0, i)), answered(p.take(p.find(0, i))); got != want {
+			t.Fatalf("of %d, Cut of %d: %v, want %v", n, i, got, want)
+		}
+	}
+	for _, want := range p.all()[:len(p.l)/3] {
+		p.take(p.find(want.Key.From, want.Uid))
+		if got := answered(q.Pop()); got != (answer{m: want}) {
+			t.Fatalf("of %d: Pop: %v, want %v", n, got, want)
+		}
+	}
+	for i, time := range []int64{-1, 0, 1, int64(n), int64(n) + 1, 2 * int64(n), math.MaxInt64} {
+		for _, seq := range []int{-1, n / 2, n} {
+			m := message(time, i%2, seq, n+20*i+seq%7)
+			if got, want := q.Push(m), p.push(m); got != want {
+				t.Fatalf("of %d, Push of %v: %d, want %d", n, m, got, want)
+			}
+		}
+	}
+	check(t, q, p.l...)
+	checkPops(t, q, p.l...)
+}
+
+// P6.1, P7.1, P8.1: a message of a sending that is there is refused whatever else differs, and none of another sending is.
 func TestTwice(t *testing.T) {
 	each(t, func(t *testing.T, k kind) {
 		m := api.Message{Key: api.Key{Time: 7, From: 3, Seq: 2}, To: 4, Value: 9, Uid: 6}
@@ -183,7 +233,7 @@ func TestTwice(t *testing.T) {
 	})
 }
 
-// P6.1, P7.1: a sending that was popped or cut may come again, as the same message or as another.
+// P6.1, P7.1, P8.1: a sending that was popped or cut may come again, as the same message or as another.
 func TestAgainBehindItsEnd(t *testing.T) {
 	each(t, func(t *testing.T, k kind) {
 		m, others := message(7, 3, 2, 6), []api.Message{at(8, 1), at(9, 2), at(7, 3)}
@@ -209,7 +259,7 @@ func TestAgainBehindItsEnd(t *testing.T) {
 	})
 }
 
-// P6.1, P7.1: what is refused, or not there, leaves the queue as it was; also what is Cut or Popped is gone just once.
+// P6.1, P7.1, P8.1: what is refused, or not there, leaves the queue as it was; also what is Cut or Popped is gone just once.
 func TestGoneOnce(t *testing.T) {
 	each(t, func(t *testing.T, k kind) {
 		l := []api.Message{at(5, 1), at(3, 2), at(4, 3)}
@@ -231,7 +281,7 @@ func TestGoneOnce(t *testing.T) {
 	})
 }
 
-// P6.1, P7.1: Cut of what is not there.
+// P6.1, P7.1, P8.1: Cut of what is not there.
 func TestCutOfNone(t *testing.T) {
 	each(t, func(t *testing.T, k kind) {
 		l := []api.Message{message(5, 3, 0, 6), message(4, api.Outside, 1, 2), message(6, 2, 2, 2), message(5, 0, 3, 0)}
@@ -250,7 +300,7 @@ func TestCutOfNone(t *testing.T) {
 	})
 }
 
-// P6.1, P7.1: Cut of the first, the last, each between, and the only one, at queues of all sizes up to 40 that were pushed in several orders.
+// P6.1, P7.1, P8.1: Cut of the first, the last, each between, and the only one, at queues of all sizes up to 40 that were pushed in several orders.
 func TestCutOfEach(t *testing.T) {
 	each(t, func(t *testing.T, k kind) {
 		for n := 1; n <= 40; n++ {
@@ -303,7 +353,7 @@ func full(t *testing.T, k kind) (queue, []api.Message) {
 	return queueOf(t, k, l...), l
 }
 
-// P6.1, P7.1: MaxQueue messages go in, one more does not; ErrTwice is told ahead of ErrFull; behind a Pop or a Cut there is room for one.
+// P6.1, P7.1, P8.1: MaxQueue messages go in, one more does not; ErrTwice is told ahead of ErrFull; behind a Pop or a Cut there is room for one.
 func TestFull(t *testing.T) {
 	each(t, func(t *testing.T, k kind) {
 		q, l := full(t, k)
@@ -344,7 +394,7 @@ func TestFull(t *testing.T) {
 	})
 }
 
-// P6.3, P7.3: of MaxQueue messages each comes once, in the order, however they were pushed.
+// P6.3, P7.3, P8.3: of MaxQueue messages each comes once, in the order, however they were pushed.
 func TestPopsOfMany(t *testing.T) {
 	each(t, func(t *testing.T, k kind) {
 		_, l := full(t, k)
@@ -363,7 +413,7 @@ func TestPopsOfMany(t *testing.T) {
 	})
 }
 
-// P6.1, P7.1 and P4: All is in the order of messages, leaves the queue as it was, and is memory of its own.
+// P6.1, P7.1, P8.1 and P4: All is in the order of messages, leaves the queue as it was, and is memory of its own.
 func TestAll(t *testing.T) {
 	each(t, func(t *testing.T, k kind) {
 		var l []api.Message
@@ -409,9 +459,9 @@ func TestWhatIsHandedInIsKept(t *testing.T) {
 	})
 }
 
-// P6.2, P7.2: a nil queue, and one that no call made.
+// P6.2, P7.2, P8.2: a nil queue, and one that no call made.
 func TestQueuesThatNoCallMade(t *testing.T) {
-	for i, q := range []queue{(*heap.Heap)(nil), &heap.Heap{}, (*calendar.Calendar)(nil), &calendar.Calendar{}} {
+	for i, q := range []queue{(*heap.Heap)(nil), &heap.Heap{}, (*calendar.Calendar)(nil), &calendar.Calendar{}, (*ladder.Ladder)(nil), &ladder.Ladder{}} {
 		for range 2 {
 			for _, m := range []api.Message{{}, at(5, 1), at(-1, 2)} {
 				if e := q.Push(m); e != api.ErrZero {

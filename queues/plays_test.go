@@ -88,7 +88,7 @@ func spreads() []spread {
 	}
 }
 
-// P6.1, P6.3, P7.1, P7.3: long plays, held against the second reading.
+// P6.1, P6.3, P7.1, P7.3, P8.1, P8.3: long plays, held against the second reading.
 func TestPlays(t *testing.T) {
 	each(t, func(t *testing.T, k kind) {
 		ends := map[api.Errno]int{}
@@ -101,7 +101,7 @@ func TestPlays(t *testing.T) {
 	})
 }
 
-// P6.1, P6.3, P7.1, P7.3: plays around MaxQueue messages.
+// P6.1, P6.3, P7.1, P7.3, P8.1, P8.3: plays around MaxQueue messages.
 func TestPlaysAtTheLimit(t *testing.T) {
 	each(t, func(t *testing.T, k kind) {
 		q, l := full(t, k)

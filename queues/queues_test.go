@@ -9,9 +9,10 @@ import (
 	"isochron/api"
 	"isochron/calendar"
 	"isochron/heap"
+	"isochron/ladder"
 )
 
-// queue is what chapters 6 and 7 promise alike.
+// queue is what chapters 6, 7 and 8 promise alike.
 type queue interface {
 	Push(m api.Message) api.Errno
 	First() (api.Message, api.Errno)
@@ -50,10 +51,32 @@ func widths() []int64 {
 	return []int64{1, 2, 3, 16, 1000, 1 << 40, api.MaxTime, math.MaxInt64}
 }
 
+func ladderKind(most int) kind {
+	return kind{
+		name: "ladder " + strconv.Itoa(most),
+		empty: func(t *testing.T) queue {
+			t.Helper()
+			q, e := ladder.New(most)
+			if q == nil || e != api.OK {
+				t.Fatalf("New(%d): %v, %d", most, q, e)
+			}
+			return q
+		},
+	}
+}
+
+// bottoms are the ends of what a bottom may hold, and some between.
+func bottoms() []int {
+	return []int{1, 2, 3, 32, 1000, 16384}
+}
+
 func kinds() []kind {
 	l := []kind{heapKind()}
 	for _, width := range widths() {
 		l = append(l, calendarKind(width))
+	}
+	for _, most := range bottoms() {
+		l = append(l, ladderKind(most))
 	}
 	return l
 }
