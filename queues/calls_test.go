@@ -9,6 +9,7 @@ import (
 	"isochron/calendar"
 	"isochron/heap"
 	"isochron/ladder"
+	"isochron/pend"
 )
 
 // P6.1, P7.1, P8.1: New is empty; of an empty queue nothing is answered, and it can be used on.
@@ -459,9 +460,9 @@ func TestWhatIsHandedInIsKept(t *testing.T) {
 	})
 }
 
-// P6.2, P7.2, P8.2: a nil queue, and one that no call made.
+// P6.2, P7.2, P8.2, P9.2: a nil queue, and one that no call made.
 func TestQueuesThatNoCallMade(t *testing.T) {
-	for i, q := range []queue{(*heap.Heap)(nil), &heap.Heap{}, (*calendar.Calendar)(nil), &calendar.Calendar{}, (*ladder.Ladder)(nil), &ladder.Ladder{}} {
+	for i, q := range []queue{(*heap.Heap)(nil), &heap.Heap{}, (*calendar.Calendar)(nil), &calendar.Calendar{}, (*ladder.Ladder)(nil), &ladder.Ladder{}, (*pend.Pend)(nil), &pend.Pend{}} {
 		for range 2 {
 			for _, m := range []api.Message{{}, at(5, 1), at(-1, 2)} {
 				if e := q.Push(m); e != api.ErrZero {

@@ -1,2 +1,2 @@
-// Package queues holds the tests that the queues of messages have in common; it has no code of its own.
+// Package queues holds the tests that the queues of messages have in common, changed alive or not; it has no code of its own.
 package queues

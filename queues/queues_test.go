@@ -10,9 +10,10 @@ import (
 	"isochron/calendar"
 	"isochron/heap"
 	"isochron/ladder"
+	"isochron/pend"
 )
 
-// queue is what chapters 6, 7 and 8 promise alike.
+// queue is what chapters 6, 7 and 8 promise alike, and chapter 9 (P9.1, P9.3) of whichever of the three it is.
 type queue interface {
 	Push(m api.Message) api.Errno
 	First() (api.Message, api.Errno)
@@ -70,13 +71,29 @@ func bottoms() []int {
 	return []int{1, 2, 3, 32, 1000, 16384}
 }
 
+func pendKind(number int) kind {
+	return kind{name: "pend " + strconv.Itoa(number), empty: func(t *testing.T) queue { return newPend(t, number) }}
+}
+
+func newPend(t *testing.T, number int) *pend.Pend {
+	t.Helper()
+	p, e := pend.New(number)
+	if p == nil || e != api.OK {
+		t.Fatalf("New(%d): %v, %d", number, p, e)
+	}
+	return p
+}
+
 func kinds() []kind {
-	l := []kind{heapKind()}
+	l := []kind{heapKind(), alwaysTurnedKind(), turnedKind()}
 	for _, width := range widths() {
 		l = append(l, calendarKind(width))
 	}
 	for _, most := range bottoms() {
 		l = append(l, ladderKind(most))
+	}
+	for _, number := range pendKinds() {
+		l = append(l, pendKind(number))
 	}
 	return l
 }
@@ -84,6 +101,7 @@ func kinds() []kind {
 // each tries a test on every kind.
 func each(t *testing.T, try func(t *testing.T, k kind)) {
 	t.Helper()
+	t.Parallel()
 	for _, k := range kinds() {
 		t.Run(k.name, func(t *testing.T) {
 			t.Parallel()
